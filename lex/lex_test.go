@@ -76,6 +76,9 @@ func letters(s string, digits bool) int {
 
 // expected: the words of s by the chapter's words alone, each cut from what is left ahead of the next.
 func expected(s string) (l []lex.Token, at int, e api.Errno) {
+	if len(s) > 2048 {
+		return nil, 2048, api.ErrLimit
+	}
 	for at < len(s) {
 		rest := s[at:]
 		if strings.IndexByte("\t\n\r ", rest[0]) >= 0 {
@@ -110,9 +113,6 @@ func expected(s string) (l []lex.Token, at int, e api.Errno) {
 		}
 		l = append(l, t)
 		at += len(t.Text)
-	}
-	if len(s) > 2048 {
-		return nil, 2048, api.ErrLimit
 	}
 	return l, len(s), api.OK
 }
@@ -491,16 +491,26 @@ func TestTextsThatAreTooLong(t *testing.T) {
 	checkTooLong(t, "wide", wide+";")
 }
 
-// P6.2, P2: ErrLex is named first, so that it is told of a text that is too long as well, wherever the word stands.
+// P6.2: a text that is too long is told so, whatever words it has, and wherever these stand; one that is not tells the
+// wrong word, to its end.
 func TestWrongWordsOfTextsThatAreTooLong(t *testing.T) {
 	for _, wrong := range []string{"$", "01", "9223372036854775808", strings.Repeat("z", 25), "\xff", "="} {
 		for _, at := range []int{0, 1, 2000, 2046, 2047, 2048, 2049, 5000} {
-			checkWrong(t, strings.Repeat(" ", at)+wrong+strings.Repeat(" ", 2049), at)
-			checkWrong(t, strings.Repeat(";", at)+wrong+strings.Repeat(" a", 2049), at)
+			checkTooLong(t, wrong, strings.Repeat(" ", at)+wrong+strings.Repeat(" ", 2049))
+			checkTooLong(t, wrong, strings.Repeat(";", at)+wrong+strings.Repeat(" a", 2049))
 		}
+		for at := 0; at+len(wrong) <= 2048; at += 2048 - len(wrong) {
+			full := strings.Repeat(";", at) + wrong + strings.Repeat(" ", 2048-at-len(wrong))
+			checkWrong(t, full, at)
+			checkTooLong(t, wrong, full+" ")
+			checkTooLong(t, wrong, " "+full)
+		}
+		checkTooLong(t, wrong, strings.Repeat(" ", 2048)+wrong)
 	}
-	checkWrong(t, strings.Repeat("z", 2049), 0)
-	checkWrong(t, strings.Repeat("1", 1<<20), 0)
+	checkWrong(t, strings.Repeat("z", 2048), 0)
+	checkTooLong(t, "one name", strings.Repeat("z", 2049))
+	checkWrong(t, strings.Repeat("1", 2048), 0)
+	checkTooLong(t, "one number", strings.Repeat("1", 1<<20))
 }
 
 // mixed: texts of words of all kinds, with and without space between, the same ones at each run.
